@@ -141,12 +141,12 @@ func boxesForPorts(ports []int, next func(int) int) []impl.Box {
 	return boxes
 }
 
-// stowed has the boxes of every row in another order: the lowest one is that which comes first.
+// stowed has the boxes of every row in another order, which is told of their slots: the lowest one is that which comes first.
 func (l loading) stowed(order func(a int, b int) int) loading {
 	plan := make([]int, len(l.plan))
 	for _, row := range rowsOf(l.ship) {
 		full := slices.DeleteFunc(slices.Clone(row), func(slot int) bool { return l.plan[slot] == 0 })
-		slices.SortStableFunc(full, func(a int, b int) int { return order(portIn(l, a), portIn(l, b)) })
+		slices.SortStableFunc(full, order)
 		for tier, slot := range full {
 			plan[row[tier]] = l.plan[slot]
 		}
@@ -156,12 +156,12 @@ func (l loading) stowed(order func(a int, b int) int) loading {
 
 // withoutOverstows has the boxes for later ports lower.
 func (l loading) withoutOverstows() loading {
-	return l.stowed(func(a int, b int) int { return b - a })
+	return l.stowed(func(a int, b int) int { return portIn(l, b) - portIn(l, a) })
 }
 
 // withMostOverstows has the boxes for later ports higher.
 func (l loading) withMostOverstows() loading {
-	return l.stowed(func(a int, b int) int { return a - b })
+	return l.stowed(func(a int, b int) int { return portIn(l, a) - portIn(l, b) })
 }
 
 // portsLists has lists of many ports, each one of some.
