@@ -27,8 +27,8 @@ func numbersFrom(seed uint32) func(int) int {
 	}
 }
 
-// shuffled has the same ids in another order.
-func shuffled(ids []int, next func(int) int) []int {
+// shuffled has the same ids or boxes in another order.
+func shuffled[T any](ids []T, next func(int) int) []T {
 	list := slices.Clone(ids)
 	for i := range list {
 		j := next(i + 1)
